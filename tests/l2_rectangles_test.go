@@ -110,6 +110,18 @@ func unbounded(list []impl.Rect) []impl.Rect {
 	return kept
 }
 
+// randomMatrix returns a matrix in which so many of a hundred entries are 1, about.
+func randomMatrix(random *rand.Rand, rows int, cols int, ones int) impl.Matrix {
+	text := make([]byte, rows*cols)
+	for i := range text {
+		text[i] = '0'
+		if random.Intn(100) < ones {
+			text[i] = '1'
+		}
+	}
+	return impl.Matrix{Rows: rows, Cols: cols, Bits: string(text)}
+}
+
 // greaterMatrices returns matrices with more than three rows or columns.
 func greaterMatrices(t *testing.T) []impl.Matrix {
 	random := rand.New(rand.NewSource(2))
@@ -126,11 +138,7 @@ func greaterMatrices(t *testing.T) []impl.Matrix {
 	}
 	for _, size := range [][2]int{{4, 4}, {4, 5}, {5, 4}, {5, 5}, {2, 8}, {8, 2}, {6, 7}, {8, 8}} {
 		for range 3 {
-			text := make([]byte, size[0]*size[1])
-			for i := range text {
-				text[i] = '0' + byte(random.Intn(2))
-			}
-			list = append(list, impl.Matrix{Rows: size[0], Cols: size[1], Bits: string(text)})
+			list = append(list, randomMatrix(random, size[0], size[1], 50))
 		}
 	}
 	return list
@@ -594,19 +602,27 @@ func checkLists(t *testing.T, m impl.Matrix, list []impl.Rect) {
 	}
 }
 
+// choicesOf returns all lists of some of the rectangles, in their order.
+func choicesOf(list []impl.Rect) [][]impl.Rect {
+	var choices [][]impl.Rect
+	for choice := range 1 << len(list) {
+		var chosen []impl.Rect
+		for i, r := range list {
+			if choice>>i&1 == 1 {
+				chosen = append(chosen, r)
+			}
+		}
+		choices = append(choices, chosen)
+	}
+	return choices
+}
+
 func TestIsCoverAndIsPartition(t *testing.T) {
 	for _, m := range smallMatrices() {
 		if m.Rows*m.Cols > 4 {
 			continue
 		}
-		list := rectsWithin(m.Rows, m.Cols)
-		for choice := range 1 << len(list) {
-			var chosen []impl.Rect
-			for i, r := range list {
-				if choice>>i&1 == 1 {
-					chosen = append(chosen, r)
-				}
-			}
+		for _, chosen := range choicesOf(rectsWithin(m.Rows, m.Cols)) {
 			checkLists(t, m, chosen)
 			slices.Reverse(chosen)
 			checkLists(t, m, chosen)
